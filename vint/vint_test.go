@@ -9,6 +9,7 @@ import (
 	"testing"
 
 	"gristmill/api"
+	"gristmill/internal/memtest"
 )
 
 // edges are the least and the greatest number of each length, with their encodings as the chapter gives them.
@@ -88,30 +89,6 @@ func hexed(t *testing.T, digits string) []byte {
 	return b
 }
 
-// roomy returns the bytes in a slice whose spare room is filled with 0xee, to show writes into it.
-func roomy(b []byte) []byte {
-	whole := append(bytes.Clone(b), bytes.Repeat([]byte{0xee}, 32)...)
-	return whole[:len(b)]
-}
-
-// checkUntouched fails if the slice or its spare room is not as roomy made it.
-func checkUntouched(t *testing.T, b, was []byte) {
-	t.Helper()
-	if !bytes.Equal(b, was) || bytes.Count(b[len(b):len(b)+32], []byte{0xee}) != 32 {
-		t.Errorf("the argument was changed: %x, was %x", b[:len(b)+32], was)
-	}
-}
-
-// checkApart fails if a result shares memory with the argument: it overwrites all that the result can reach.
-func checkApart(t *testing.T, result, b, was []byte) {
-	t.Helper()
-	reach := result[:cap(result)]
-	for i := range reach {
-		reach[i] = 0x55
-	}
-	checkUntouched(t, b, was)
-}
-
 // P1.1
 
 func TestLenOfEdges(t *testing.T) {
@@ -168,14 +145,12 @@ func TestPutAppends(t *testing.T) {
 func TestPutMakesNewMemory(t *testing.T) {
 	was := []byte{1, 2, 3}
 	for _, x := range edges {
-		b := roomy(was)
+		b := memtest.Roomy(was, 0xee)
 		result := Put(b, x.n)
-		checkUntouched(t, b, was)
-		checkApart(t, result, b, was)
+		memtest.Check(t, result, b, was, 0xee)
 	}
-	b := roomy(was)
-	first, second := Put(b, 1), Put(b, 2)
-	if first[3] != 1 || second[3] != 2 {
+	b := memtest.Roomy(was, 0xee)
+	if first, second := Put(b, 1), Put(b, 2); memtest.Shared(first, second) {
 		t.Errorf("two results share memory: %x, %x", first, second)
 	}
 }
@@ -282,10 +257,9 @@ func TestPutInt(t *testing.T) {
 func TestPutIntMakesNewMemory(t *testing.T) {
 	was := []byte{1, 2}
 	for _, x := range signed {
-		b := roomy(was)
+		b := memtest.Roomy(was, 0xee)
 		result := PutInt(b, x.n)
-		checkUntouched(t, b, was)
-		checkApart(t, result, b, was)
+		memtest.Check(t, result, b, was, 0xee)
 	}
 }
 
@@ -337,10 +311,9 @@ func TestPutText(t *testing.T) {
 func TestPutTextMakesNewMemory(t *testing.T) {
 	was := []byte{1, 2}
 	for _, s := range []string{"", "a", "abcdefgh"} {
-		b := roomy(was)
+		b := memtest.Roomy(was, 0xee)
 		result := PutText(b, s)
-		checkUntouched(t, b, was)
-		checkApart(t, result, b, was)
+		memtest.Check(t, result, b, was, 0xee)
 	}
 }
 

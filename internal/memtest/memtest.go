@@ -1,0 +1,63 @@
+// Package memtest helps the tests of the layers to show that a call neither changes its arguments nor shares memory with them.
+package memtest
+
+// Reporter is what Check needs of a test.
+type Reporter interface {
+	Helper()
+	Error(args ...any)
+}
+
+// room is how far behind the end of a slice a write shows.
+const room = 32
+
+// Roomy returns the items in a slice whose spare room is filled with marks.
+func Roomy[T any](items []T, mark T) []T {
+	whole := append(make([]T, 0, len(items)+room), items...)
+	for range room {
+		whole = append(whole, mark)
+	}
+	return whole[:len(items)]
+}
+
+// Kept tells whether a slice that Roomy made holds the items and the marks still.
+func Kept[T comparable](slice, items []T, mark T) bool {
+	if len(slice) != len(items) || cap(slice) < len(items)+room {
+		return false
+	}
+	for i, x := range slice[:len(items)+room] {
+		if i < len(items) && x != items[i] || i >= len(items) && x != mark {
+			return false
+		}
+	}
+	return true
+}
+
+// Check reports if a slice that Roomy made is not as it was, or if a result shares memory with it.
+func Check[T comparable](r Reporter, result, slice, items []T, mark T) {
+	r.Helper()
+	if !Kept(slice, items, mark) {
+		r.Error("the argument was changed: ", slice[:cap(slice)], ", was ", items)
+	}
+	if Shared(result, slice) {
+		r.Error("the result shares memory with the argument: ", result)
+	}
+}
+
+// Shared tells whether two slices reach the same memory, be it by their spare room.
+func Shared[T any](a, b []T) bool {
+	return beginsIn(a, b) || beginsIn(b, a)
+}
+
+func beginsIn[T any](a, b []T) bool {
+	if cap(a) == 0 {
+		return false
+	}
+	first := &a[:1][0]
+	b = b[:cap(b)]
+	for i := range b {
+		if &b[i] == first {
+			return true
+		}
+	}
+	return false
+}

@@ -1,0 +1,67 @@
+package memtest
+
+import "testing"
+
+func TestRoomyHoldsTheItems(t *testing.T) {
+	items := []int{1, 2, 3}
+	slice := Roomy(items, -1)
+	if len(slice) != 3 || slice[0] != 1 || slice[2] != 3 || slice[:4][3] != -1 {
+		t.Error(slice[:cap(slice)])
+	}
+	if !Kept(slice, items, -1) || !Kept(Roomy(nil, 7), nil, 7) {
+		t.Error("an untouched slice was not kept")
+	}
+}
+
+func TestKeptSeesWrites(t *testing.T) {
+	items := []int{1, 2, 3}
+	for at := range len(items) + room {
+		slice := Roomy(items, -1)
+		slice[:len(items)+room][at] = 9
+		if Kept(slice, items, -1) {
+			t.Errorf("a write at %d was not seen", at)
+		}
+	}
+	if slice := Roomy(items, -1); Kept(slice[:2], items, -1) || Kept(slice, items[:2], -1) || Kept(items, items, -1) {
+		t.Error("another slice was not seen")
+	}
+}
+
+func TestShared(t *testing.T) {
+	slice := Roomy([]int{1, 2, 3}, -1)
+	whole := slice[:cap(slice)]
+	for from := range whole {
+		if piece := whole[from:from]; !Shared(piece, slice) || !Shared(slice, piece) {
+			t.Errorf("the memory from %d on is shared", from)
+		}
+		if Shared(whole[:from:from], whole[from:]) || Shared(whole[from:], whole[:from:from]) {
+			t.Errorf("the memory ahead of %d is not that behind", from)
+		}
+	}
+	if Shared(slice, Roomy([]int{1, 2, 3}, -1)) || Shared(slice, nil) || Shared(nil, slice) || Shared[int](nil, nil) {
+		t.Error("a copy shares no memory")
+	}
+}
+
+// counted is a Reporter that counts.
+type counted struct{ errors int }
+
+func (c *counted) Helper() {}
+
+func (c *counted) Error(args ...any) { c.errors++ }
+
+func TestCheckReports(t *testing.T) {
+	items := []int{1, 2, 3}
+	slice := Roomy(items, -1)
+	var c counted
+	if Check(&c, []int{1}, slice, items, -1); c.errors != 0 {
+		t.Error("a copy was reported")
+	}
+	if Check(&c, slice[3:], slice, items, -1); c.errors != 1 {
+		t.Error("shared memory was not reported")
+	}
+	slice[1] = 9
+	if Check(&c, []int{1}, slice, items, -1); c.errors != 2 {
+		t.Error("a change was not reported")
+	}
+}
