@@ -26,17 +26,6 @@ var known = []struct {
 	{"The quick brown fox jumps over the lazy dog", 0x414fa339},
 }
 
-// mixed returns so many bytes without a pattern that a checksum could miss.
-func mixed(n int) []byte {
-	b := make([]byte, n)
-	x := uint32(n) + 1
-	for i := range b {
-		x = x*1664525 + 1013904223
-		b[i] = byte(x >> 24)
-	}
-	return b
-}
-
 // samples are byte sequences of many lengths, the known ones and the plainest among them.
 func samples() [][]byte {
 	var out [][]byte
@@ -44,7 +33,7 @@ func samples() [][]byte {
 		out = append(out, []byte(x.text))
 	}
 	for _, n := range []int{1, 2, 3, 4, 5, 7, 8, 9, 63, 64, 65, 255, 256, 1000, 1<<16 + 1} {
-		out = append(out, mixed(n), make([]byte, n), bytes.Repeat([]byte{0xff}, n))
+		out = append(out, memtest.Mixed(n), make([]byte, n), bytes.Repeat([]byte{0xff}, n))
 	}
 	return out
 }
@@ -144,7 +133,7 @@ func TestMoreStartsWithTheComplement(t *testing.T) {
 }
 
 func TestSumsArePure(t *testing.T) {
-	was := mixed(40)
+	was := memtest.Mixed(40)
 	b := memtest.Roomy(was, 0xee)
 	first, more := Of(b), More(7, b)
 	Of([]byte("between"))
@@ -189,7 +178,7 @@ func TestTakeTooFewBytes(t *testing.T) {
 	checkTake(t, nil, nil, api.ErrShort)
 	for n := range 4 {
 		checkTake(t, make([]byte, n), nil, api.ErrShort)
-		checkTake(t, mixed(n), nil, api.ErrShort)
+		checkTake(t, memtest.Mixed(n), nil, api.ErrShort)
 		// The spare room of a slice holds no bytes of it.
 		checkTake(t, make([]byte, n, 8), nil, api.ErrShort)
 	}
@@ -211,7 +200,7 @@ func TestTakeWrongSum(t *testing.T) {
 }
 
 func TestTakeOfEveryCut(t *testing.T) {
-	whole := Put(mixed(50))
+	whole := Put(memtest.Mixed(50))
 	for cut := 4; cut < len(whole); cut++ {
 		checkTake(t, whole[:cut], nil, api.ErrSum)
 	}
@@ -226,7 +215,7 @@ func TestPutIsTaken(t *testing.T) {
 }
 
 func TestPutAndTakeMakeNewMemory(t *testing.T) {
-	for _, was := range [][]byte{nil, {1}, {1, 2, 3}, mixed(100)} {
+	for _, was := range [][]byte{nil, {1}, {1, 2, 3}, memtest.Mixed(100)} {
 		b := memtest.Roomy(was, 0xee)
 		result := Put(b)
 		memtest.Check(t, result, b, was, 0xee)
@@ -240,7 +229,7 @@ func TestPutAndTakeMakeNewMemory(t *testing.T) {
 			t.Error("two results of Take share memory")
 		}
 	}
-	for _, was := range [][]byte{{1, 2}, mixed(30)} {
+	for _, was := range [][]byte{{1, 2}, memtest.Mixed(30)} {
 		b := memtest.Roomy(was, 0xee)
 		result, _ := Take(b)
 		memtest.Check(t, result, b, was, 0xee)
@@ -257,7 +246,7 @@ func TestMoreGoesOn(t *testing.T) {
 			}
 		}
 	}
-	b := mixed(100)
+	b := memtest.Mixed(100)
 	sum := uint32(0)
 	for i := range b {
 		sum = More(sum, b[i:i+1])
@@ -281,7 +270,7 @@ func checkChanged(t *testing.T, whole []byte, at int, change [4]byte) {
 
 func TestChangedBytesAreSeen(t *testing.T) {
 	for _, n := range []int{0, 1, 2, 3, 4, 5, 9, 30} {
-		whole := Put(mixed(n))
+		whole := Put(memtest.Mixed(n))
 		for at := range len(whole) - 3 {
 			for i := range 4 {
 				for c := 1; c < 256; c++ {
@@ -298,7 +287,7 @@ func TestChangedBytesAreSeen(t *testing.T) {
 }
 
 func TestTwoChangedBytesAreSeen(t *testing.T) {
-	whole := Put(mixed(6))
+	whole := Put(memtest.Mixed(6))
 	for at := range len(whole) - 3 {
 		for x := 1; x < 1<<16; x++ {
 			checkChanged(t, whole, at, [4]byte{byte(x), 0, 0, byte(x >> 8)})

@@ -1,10 +1,21 @@
-// Package memtest helps the tests of the layers to show that a call neither changes its arguments nor shares memory with them.
+// Package memtest helps the tests of the layers: it makes bytes to try calls with, and shows that a call neither changes its arguments nor shares memory with them.
 package memtest
 
 // Reporter is what Check needs of a test.
 type Reporter interface {
 	Helper()
 	Error(args ...any)
+}
+
+// Mixed returns so many bytes without a pattern, the same ones each time.
+func Mixed(n int) []byte {
+	b := make([]byte, n)
+	x := uint32(n) + 1
+	for i := range b {
+		x = x*1664525 + 1013904223
+		b[i] = byte(x >> 24)
+	}
+	return b
 }
 
 // room is how far behind the end of a slice a write shows.

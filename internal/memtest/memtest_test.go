@@ -1,6 +1,21 @@
 package memtest
 
-import "testing"
+import (
+	"bytes"
+	"testing"
+)
+
+func TestMixed(t *testing.T) {
+	b := Mixed(1000)
+	if len(b) != 1000 || !bytes.Equal(b, Mixed(1000)) || len(Mixed(0)) != 0 {
+		t.Error("the bytes are not the same each time")
+	}
+	for c := range 256 {
+		if n := bytes.Count(b, []byte{byte(c)}); n > 20 {
+			t.Errorf("%d of 1000 bytes are %d", n, c)
+		}
+	}
+}
 
 func TestRoomyHoldsTheItems(t *testing.T) {
 	items := []int{1, 2, 3}
