@@ -13,19 +13,6 @@ import (
 // lengths are those at which a frame's own length changes, with their neighbours, the least and the greatest ones.
 var lengths = []int{0, 1, 2, 3, 9, 126, 127, 128, 129, 1000, 1<<14 - 1, 1 << 14, 1<<14 + 1, 1 << 16, api.MaxBytes - 1, api.MaxBytes}
 
-// number returns n as chapter 1 writes it, for numbers below 2^28.
-func number(n int) []byte {
-	switch {
-	case n < 1<<7:
-		return []byte{byte(n)}
-	case n < 1<<14:
-		return []byte{0x80 | byte(n>>8), byte(n)}
-	case n < 1<<21:
-		return []byte{0xc0 | byte(n>>16), byte(n >> 8), byte(n)}
-	}
-	return []byte{0xe0 | byte(n>>24), byte(n >> 16), byte(n >> 8), byte(n)}
-}
-
 // summed returns the bytes followed by their checksum.
 func summed(body []byte) []byte {
 	sum := crc32.ChecksumIEEE(body)
@@ -34,7 +21,7 @@ func summed(body []byte) []byte {
 
 // framed is a frame by the words of the chapter.
 func framed(data []byte) []byte {
-	return summed(append(number(len(data)), data...))
+	return summed(append(memtest.Number(len(data)), data...))
 }
 
 // P3.1
@@ -82,7 +69,7 @@ func TestSize(t *testing.T) {
 		}
 	}
 	for n := range 1 << 15 {
-		if got, want := Size(n), len(number(n))+n+4; got != want {
+		if got, want := Size(n), len(memtest.Number(n))+n+4; got != want {
 			t.Errorf("Size(%d) = %d, want %d", n, got, want)
 		}
 	}
@@ -152,10 +139,10 @@ func TestGetPassesTheErrorsOfTheLength(t *testing.T) {
 }
 
 func TestGetTooLong(t *testing.T) {
-	checkGet(t, number(api.MaxBytes+1), 0, nil, 0, api.ErrLong)
-	checkGet(t, number(1<<21), 0, nil, 0, api.ErrLong)
-	checkGet(t, append(number(api.MaxBytes+1), memtest.Mixed(100)...), 0, nil, 0, api.ErrLong)
-	checkGet(t, append(framed(nil), number(api.MaxBytes+1)...), 5, nil, 0, api.ErrLong)
+	checkGet(t, memtest.Number(api.MaxBytes+1), 0, nil, 0, api.ErrLong)
+	checkGet(t, memtest.Number(1<<21), 0, nil, 0, api.ErrLong)
+	checkGet(t, append(memtest.Number(api.MaxBytes+1), memtest.Mixed(100)...), 0, nil, 0, api.ErrLong)
+	checkGet(t, append(framed(nil), memtest.Number(api.MaxBytes+1)...), 5, nil, 0, api.ErrLong)
 	// A frame that would be intact, but for its length.
 	checkGet(t, framed(memtest.Mixed(api.MaxBytes+1)), 0, nil, 0, api.ErrLong)
 	for _, b := range [][]byte{
@@ -182,7 +169,7 @@ func TestGetTooFewBytes(t *testing.T) {
 			checkGet(t, b, 20, nil, 0, api.ErrShort)
 		}
 	}
-	checkGet(t, number(api.MaxBytes), 0, nil, 0, api.ErrShort)
+	checkGet(t, memtest.Number(api.MaxBytes), 0, nil, 0, api.ErrShort)
 	whole := framed(memtest.Mixed(api.MaxBytes))
 	checkGet(t, whole[:len(whole)-1], 0, nil, 0, api.ErrShort)
 	// Too few bytes are named ahead of a wrong checksum.
@@ -286,7 +273,7 @@ func TestAllStopsAtTheFirstError(t *testing.T) {
 		{[]byte{0x80}, api.ErrShort},
 		{[]byte{100}, api.ErrShort},
 		{[]byte{0x80, 0}, api.ErrForm},
-		{number(api.MaxBytes + 1), api.ErrLong},
+		{memtest.Number(api.MaxBytes + 1), api.ErrLong},
 		{wrong, api.ErrSum},
 	} {
 		checkAll(t, x.bad, nil, 0, x.e)

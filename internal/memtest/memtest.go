@@ -1,4 +1,4 @@
-// Package memtest helps the tests of the layers: it makes bytes to try calls with, and shows that a call neither changes its arguments nor shares memory with them.
+// Package memtest helps the tests of the layers: it makes bytes to try calls with and numbers as they are written, and shows that a call neither changes its arguments nor shares memory with them.
 package memtest
 
 // Reporter is what Check needs of a test.
@@ -16,6 +16,19 @@ func Mixed(n int) []byte {
 		b[i] = byte(x >> 24)
 	}
 	return b
+}
+
+// Number returns n as chapter 1 writes it, for numbers below 2^28: it shares nothing with vint.
+func Number(n int) []byte {
+	switch {
+	case n < 1<<7:
+		return []byte{byte(n)}
+	case n < 1<<14:
+		return []byte{0x80 | byte(n>>8), byte(n)}
+	case n < 1<<21:
+		return []byte{0xc0 | byte(n>>16), byte(n >> 8), byte(n)}
+	}
+	return []byte{0xe0 | byte(n>>24), byte(n >> 16), byte(n >> 8), byte(n)}
 }
 
 // room is how far behind the end of a slice a write shows.

@@ -17,6 +17,25 @@ func TestMixed(t *testing.T) {
 	}
 }
 
+func TestNumber(t *testing.T) {
+	for n, want := range map[int][]byte{
+		0:         {0},
+		5:         {5},
+		1<<7 - 1:  {0x7f},
+		1 << 7:    {0x80, 0x80},
+		300:       {0x81, 0x2c},
+		1<<14 - 1: {0xbf, 0xff},
+		1 << 14:   {0xc0, 0x40, 0},
+		1<<21 - 1: {0xdf, 0xff, 0xff},
+		1 << 21:   {0xe0, 0x20, 0, 0},
+		1<<28 - 1: {0xef, 0xff, 0xff, 0xff},
+	} {
+		if b := Number(n); !bytes.Equal(b, want) {
+			t.Errorf("Number(%d) = %x, want %x", n, b, want)
+		}
+	}
+}
+
 func TestRoomyHoldsTheItems(t *testing.T) {
 	items := []int{1, 2, 3}
 	slice := Roomy(items, -1)
