@@ -241,7 +241,7 @@ func few() []act {
 	}
 }
 
-// TestShortRuns tries every run of five calls.
+// TestShortRuns tries every run of up to five of the few calls.
 func TestShortRuns(t *testing.T) {
 	calls := few()
 	var run func(d *Disk, m *model, left int, told string)
