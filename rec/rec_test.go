@@ -430,11 +430,6 @@ func TestGetPairsMakesNewMemory(t *testing.T) {
 	}
 }
 
-// rising are strings, each greater than those before it: a prefix is less, the first unlike byte decides, whatever the lengths, and bytes have no sign and no case.
-func rising() []string {
-	return []string{"", "\x00", "\x00\x00", "\x01", "10", "9", "A", "B", "a", "a\x00", "aa", "ab", "b", "ba", "z", "\x7f", "\x80", "é", "é\x00", "\xff", "\xff\x00", "\xff\xff"}
-}
-
 // sign is -1, 0 or 1, as n stands to 0.
 func sign(n int) int {
 	switch {
@@ -448,8 +443,8 @@ func sign(n int) int {
 
 func TestOrderOfAllPairs(t *testing.T) {
 	var pairs []api.Pair
-	for _, key := range rising() {
-		for _, val := range rising() {
+	for _, key := range memtest.Rising() {
+		for _, val := range memtest.Rising() {
 			pairs = append(pairs, api.Pair{Key: key, Val: val})
 		}
 	}
@@ -495,8 +490,8 @@ func TestSortedOfFew(t *testing.T) {
 	checkSorted(t, []api.Pair{}, true)
 	checkSorted(t, []api.Pair{{}}, true)
 	checkSorted(t, []api.Pair{{Key: "z", Val: "a"}}, true)
-	for i, first := range rising() {
-		for j, second := range rising() {
+	for i, first := range memtest.Rising() {
+		for j, second := range memtest.Rising() {
 			// The Vals neither help nor harm.
 			checkSorted(t, []api.Pair{{Key: first}, {Key: second}}, i < j)
 			checkSorted(t, []api.Pair{{Key: first, Val: "a"}, {Key: second, Val: "b"}}, i < j)
@@ -506,7 +501,7 @@ func TestSortedOfFew(t *testing.T) {
 }
 
 func TestSortedOfMany(t *testing.T) {
-	keys := rising()
+	keys := memtest.Rising()
 	l := couples(keys)
 	checkSorted(t, l, true)
 	for i := 1; i < len(l); i++ {
@@ -593,17 +588,8 @@ func checkWrittenAgain(t *testing.T, b []byte, at int) {
 }
 
 func TestShortBytesAreWrittenAgain(t *testing.T) {
-	letters := []byte{0, 1, 2, 3, 0x80, 0xc1, 0xff}
-	level := [][]byte{nil}
-	for range 6 {
-		var longer [][]byte
-		for _, b := range level {
-			checkWrittenAgain(t, b, 0)
-			for _, c := range letters {
-				longer = append(longer, append(bytes.Clone(b), c))
-			}
-		}
-		level = longer
+	for _, b := range memtest.Short([]byte{0, 1, 2, 3, 0x80, 0xc1, 0xff}, 5) {
+		checkWrittenAgain(t, b, 0)
 	}
 }
 

@@ -1,4 +1,4 @@
-// Package memtest helps the tests of the layers: it makes bytes to try calls with and numbers as they are written, and shows that a call neither changes its arguments nor shares memory with them.
+// Package memtest helps the tests of the layers: it makes bytes and strings to try calls with and numbers as they are written, and shows that a call neither changes its arguments nor shares memory with them.
 package memtest
 
 // Reporter is what Check needs of a test.
@@ -29,6 +29,27 @@ func Number(n int) []byte {
 		return []byte{0xc0 | byte(n>>16), byte(n >> 8), byte(n)}
 	}
 	return []byte{0xe0 | byte(n>>24), byte(n >> 16), byte(n >> 8), byte(n)}
+}
+
+// Rising returns strings, each greater than those before it: a proper prefix is less, the first unlike byte decides, whatever the lengths, and bytes have no sign and no case.
+func Rising() []string {
+	return []string{"", "\x00", "\x00\x00", "\x01", "-1", "10", "9", "A", "B", "a", "a\x00", "aa", "ab", "b", "ba", "z", "\x7f", "\x80", "é", "é\x00", "\xff", "\xff\x00", "\xff\xff"}
+}
+
+// Short returns all sequences of at most so many of the bytes, the shorter ones first.
+func Short(letters []byte, most int) [][]byte {
+	all := [][]byte{nil}
+	from := 0
+	for range most {
+		to := len(all)
+		for _, b := range all[from:to] {
+			for _, c := range letters {
+				all = append(all, append(b[:len(b):len(b)], c))
+			}
+		}
+		from = to
+	}
+	return all
 }
 
 // room is how far behind the end of a slice a write shows.

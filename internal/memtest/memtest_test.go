@@ -36,6 +36,42 @@ func TestNumber(t *testing.T) {
 	}
 }
 
+func TestRising(t *testing.T) {
+	l := Rising()
+	if len(l) < 20 || l[0] != "" {
+		t.Errorf("%q", l)
+	}
+	for i := 1; i < len(l); i++ {
+		if bytes.Compare([]byte(l[i-1]), []byte(l[i])) != -1 {
+			t.Errorf("%q is not greater than %q", l[i], l[i-1])
+		}
+	}
+}
+
+func TestShort(t *testing.T) {
+	want := []string{"", "a", "b", "aa", "ab", "ba", "bb"}
+	got := Short([]byte("ab"), 2)
+	if len(got) != len(want) {
+		t.Fatalf("%q", got)
+	}
+	for i, b := range got {
+		if string(b) != want[i] {
+			t.Errorf("%d: %q, want %q", i, b, want[i])
+		}
+		for _, other := range got[:i] {
+			if Shared(b, other) {
+				t.Errorf("%q and %q share memory", b, other)
+			}
+		}
+	}
+	if l := Short([]byte("abc"), 6); len(l) != 1+3+9+27+81+243+729 {
+		t.Errorf("%d sequences", len(l))
+	}
+	if l := Short(nil, 3); len(l) != 1 || len(l[0]) != 0 || len(Short([]byte("a"), 0)) != 1 {
+		t.Errorf("%q", l)
+	}
+}
+
 func TestRoomyHoldsTheItems(t *testing.T) {
 	items := []int{1, 2, 3}
 	slice := Roomy(items, -1)
