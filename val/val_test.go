@@ -60,20 +60,6 @@ func values() []api.Val {
 	return vs
 }
 
-// disguised are values that mean the same as v: its other field is not empty, and a string's kind is any but that of numbers.
-func disguised(v api.Val) []api.Val {
-	if v.Kind == api.Num {
-		return []api.Val{v, {Kind: api.Num, Int: v.Int, Text: "x"}, {Kind: api.Num, Int: v.Int, Text: "-1"}, {Kind: api.Num, Int: v.Int, Text: "\xff"}}
-	}
-	l := []api.Val{v}
-	for _, kind := range []uint8{1, 2, 3, 127, 128, 254, 255} {
-		for _, n := range []int{math.MinInt, -1, 0, 7, math.MaxInt} {
-			l = append(l, api.Val{Kind: kind, Int: n, Text: v.Text})
-		}
-	}
-	return l
-}
-
 // written is a value by the words of the chapter.
 func written(v api.Val) []byte {
 	if v.Kind == api.Num {
@@ -155,8 +141,8 @@ func TestOrderLooksAtMeaningfulFieldsAlone(t *testing.T) {
 	vs := []api.Val{Int(math.MinInt), Int(-1), Int(0), Int(1), Int(math.MaxInt), Text(""), Text("-1"), Text("a"), Text("b")}
 	for i, first := range vs {
 		for j, second := range vs {
-			for _, a := range disguised(first) {
-				for _, b := range disguised(second) {
+			for _, a := range memtest.Disguised(first) {
+				for _, b := range memtest.Disguised(second) {
 					if got := Order(a, b); got != cmp.Compare(i, j) {
 						t.Errorf("Order(%s, %s) = %d, want %d", told(a), told(b), got, cmp.Compare(i, j))
 					}
@@ -211,7 +197,7 @@ func TestPutByDefinition(t *testing.T) {
 
 func TestPutWritesMeaningfulFieldsAlone(t *testing.T) {
 	for _, v := range []api.Val{Int(math.MinInt), Int(-1), Int(0), Int(64), Text(""), Text("-1"), Text("a\xff")} {
-		for _, same := range disguised(v) {
+		for _, same := range memtest.Disguised(v) {
 			checkPut(t, nil, same, written(v))
 			checkPut(t, []byte{1, 2}, same, append([]byte{1, 2}, written(v)...))
 		}
@@ -356,14 +342,14 @@ func TestGetMakesNewMemory(t *testing.T) {
 
 func TestShow(t *testing.T) {
 	for _, n := range numbers() {
-		for _, v := range disguised(Int(n)) {
+		for _, v := range memtest.Disguised(Int(n)) {
 			if s := Show(v); s != fmt.Sprintf("%d", n) {
 				t.Errorf("Show(%s) = %q", told(v), s)
 			}
 		}
 	}
 	for _, want := range append(memtest.Rising(), append(sized(), "-007", "+5", " 1", strings.Repeat("9", 2*api.MaxItem))...) {
-		for _, v := range disguised(Text(want)) {
+		for _, v := range memtest.Disguised(Text(want)) {
 			if s := Show(v); s != want {
 				t.Errorf("Show(%s) = %.40q", told(v), s)
 			}
@@ -491,7 +477,7 @@ func TestNumberOfShow(t *testing.T) {
 func TestValuesAreReadBack(t *testing.T) {
 	for _, v := range values() {
 		for _, tail := range tails() {
-			for _, same := range disguised(v)[:2] {
+			for _, same := range memtest.Disguised(v)[:2] {
 				b := Put([]byte{200}, same)
 				checkGet(t, append(b, tail...), 1, v, len(b), api.OK)
 			}

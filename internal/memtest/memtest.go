@@ -1,5 +1,11 @@
-// Package memtest helps the tests of the layers: it makes bytes and strings to try calls with and numbers as they are written, and shows that a call neither changes its arguments nor shares memory with them.
+// Package memtest helps the tests of the layers: it makes bytes, strings and values to try calls with and numbers as they are written, and shows that a call neither changes its arguments nor shares memory with them.
 package memtest
+
+import (
+	"math"
+
+	"gristmill/api"
+)
 
 // Reporter is what Check needs of a test.
 type Reporter interface {
@@ -50,6 +56,20 @@ func Short(letters []byte, most int) [][]byte {
 		from = to
 	}
 	return all
+}
+
+// Disguised returns values that mean the same as v, v first: its other field is not empty, and a string's kind is any but that of numbers.
+func Disguised(v api.Val) []api.Val {
+	if v.Kind == api.Num {
+		return []api.Val{v, {Kind: api.Num, Int: v.Int, Text: "x"}, {Kind: api.Num, Int: v.Int, Text: "-1"}, {Kind: api.Num, Int: v.Int, Text: "\xff"}}
+	}
+	l := []api.Val{v}
+	for _, kind := range []uint8{1, 2, 3, 127, 128, 254, 255} {
+		for _, n := range []int{math.MinInt, -1, 0, 7, math.MaxInt} {
+			l = append(l, api.Val{Kind: kind, Int: n, Text: v.Text})
+		}
+	}
+	return l
 }
 
 // room is how far behind the end of a slice a write shows.

@@ -3,6 +3,8 @@ package memtest
 import (
 	"bytes"
 	"testing"
+
+	"gristmill/api"
 )
 
 func TestMixed(t *testing.T) {
@@ -69,6 +71,20 @@ func TestShort(t *testing.T) {
 	}
 	if l := Short(nil, 3); len(l) != 1 || len(l[0]) != 0 || len(Short([]byte("a"), 0)) != 1 {
 		t.Errorf("%q", l)
+	}
+}
+
+func TestDisguised(t *testing.T) {
+	for _, v := range []api.Val{{}, {Kind: api.Num, Int: -7}, {Kind: api.Str}, {Kind: api.Str, Text: "a"}} {
+		l := Disguised(v)
+		if len(l) < 4 || l[0] != v {
+			t.Errorf("%v: %v", v, l)
+		}
+		for _, same := range l {
+			if (same.Kind == api.Num) != (v.Kind == api.Num) || v.Kind == api.Num && same.Int != v.Int || v.Kind != api.Num && same.Text != v.Text {
+				t.Errorf("%v does not mean the same as %v", same, v)
+			}
+		}
 	}
 }
 
