@@ -10,13 +10,14 @@ import (
 	"testing"
 
 	"gristmill/api"
+	"gristmill/internal/exprs"
 	"gristmill/internal/memtest"
 )
 
 // P9.1
 
 func TestName(t *testing.T) {
-	for op, want := range names {
+	for op, want := range exprs.Names() {
 		if got := Name(op); got != want {
 			t.Errorf("Name(%d) = %q, want %q", op, got, want)
 		}
@@ -43,7 +44,7 @@ func TestNameOfTheConstants(t *testing.T) {
 
 func checkFind(t *testing.T, s string) {
 	t.Helper()
-	want := slices.Index(names, s)
+	want := slices.Index(exprs.Names(), s)
 	op, ok := Find(s)
 	if ok != (want >= 0) || op != max(want, 0) {
 		t.Errorf("Find(%.40q) = %d, %t; want %d, %t", s, op, ok, max(want, 0), want >= 0)
@@ -51,7 +52,7 @@ func checkFind(t *testing.T, s string) {
 }
 
 func TestFind(t *testing.T) {
-	for _, s := range names {
+	for _, s := range exprs.Names() {
 		checkFind(t, s)
 		for _, other := range []string{strings.ToUpper(s), strings.ToUpper(s[:1]) + s[1:], s + s, s + " ", " " + s, s + "\x00", "\x00" + s, s + "s", "(" + s, s + "\n", "\"" + s + "\"", s + strings.Repeat("x", api.MaxItem)} {
 			checkFind(t, other)
@@ -77,8 +78,8 @@ func TestFindOfAllShortWords(t *testing.T) {
 
 func TestArity(t *testing.T) {
 	for op := range 28 {
-		if got := Arity(op); got != arity(op) {
-			t.Errorf("Arity of %s = %d, want %d", names[op], got, arity(op))
+		if got := Arity(op); got != exprs.Arity(op) {
+			t.Errorf("Arity of %s = %d, want %d", exprs.Name(op), got, exprs.Arity(op))
 		}
 	}
 	for _, op := range noOps {
@@ -101,38 +102,38 @@ func checkSize(t *testing.T, x api.Expr, size, deep int) {
 }
 
 func TestSizeAndDeepKnown(t *testing.T) {
-	off, add := call(api.OpOff), call(api.OpAdd, call(api.OpOff), number(5))
+	off, add := exprs.Call(api.OpOff), exprs.Call(api.OpAdd, exprs.Call(api.OpOff), exprs.Number(5))
 	checkSize(t, api.Expr{}, 1, 1)
 	checkSize(t, api.Expr{Args: []api.Expr{}}, 1, 1)
 	checkSize(t, off, 1, 1)
-	checkSize(t, call(99), 1, 1)
+	checkSize(t, exprs.Call(99), 1, 1)
 	checkSize(t, add, 3, 2)
-	checkSize(t, call(api.OpNeg, add), 4, 3)
-	checkSize(t, call(api.OpIf, off, add, off), 6, 3)
-	checkSize(t, call(api.OpIf, nested(off, 3), add, off), 9, 5)
-	checkSize(t, call(api.OpIf, off, add, nested(off, 3)), 9, 5)
+	checkSize(t, exprs.Call(api.OpNeg, add), 4, 3)
+	checkSize(t, exprs.Call(api.OpIf, off, add, off), 6, 3)
+	checkSize(t, exprs.Call(api.OpIf, exprs.Nested(off, 3), add, off), 9, 5)
+	checkSize(t, exprs.Call(api.OpIf, off, add, exprs.Nested(off, 3)), 9, 5)
 	// Neither depends on what the operation takes.
-	checkSize(t, call(api.OpConst, add, off), 5, 3)
-	checkSize(t, call(-1, off, off, off, off, off), 6, 2)
-	checkSize(t, call(28, nested(off, 1)), 3, 3)
+	checkSize(t, exprs.Call(api.OpConst, add, off), 5, 3)
+	checkSize(t, exprs.Call(-1, off, off, off, off, off), 6, 2)
+	checkSize(t, exprs.Call(28, exprs.Nested(off, 1)), 3, 3)
 }
 
 func TestSizeAndDeepByDefinition(t *testing.T) {
-	for _, x := range append(validOnes(), wildOnes()...) {
-		checkSize(t, x, len(every(x)), depth(x))
+	for _, x := range append(exprs.Valid(), wildOnes()...) {
+		checkSize(t, x, len(exprs.Every(x)), depth(x))
 	}
 }
 
 func TestSizeAndDeepHaveNoLimit(t *testing.T) {
 	for _, n := range []int{19, 20, 21, 199, 200, 201, 1000, 1<<16 - 1} {
-		checkSize(t, nested(number(1), n), n+1, n+1)
-		checkSize(t, call(api.OpAdd, make([]api.Expr, n)...), n+1, 2)
-		checkSize(t, call(api.OpAdd, nested(number(1), n), number(1)), n+3, n+2)
-		checkSize(t, call(api.OpAdd, number(1), nested(number(1), n)), n+3, n+2)
+		checkSize(t, exprs.Nested(exprs.Number(1), n), n+1, n+1)
+		checkSize(t, exprs.Call(api.OpAdd, make([]api.Expr, n)...), n+1, 2)
+		checkSize(t, exprs.Call(api.OpAdd, exprs.Nested(exprs.Number(1), n), exprs.Number(1)), n+3, n+2)
+		checkSize(t, exprs.Call(api.OpAdd, exprs.Number(1), exprs.Nested(exprs.Number(1), n)), n+3, n+2)
 	}
-	shared := number(1)
+	shared := exprs.Number(1)
 	for range 16 {
-		shared = call(api.OpAdd, shared, shared)
+		shared = exprs.Call(api.OpAdd, shared, shared)
 	}
 	checkSize(t, shared, 1<<17-1, 17)
 }
@@ -145,7 +146,7 @@ func checkRight(t *testing.T, x api.Expr, want api.Errno) {
 }
 
 func TestRightByDefinition(t *testing.T) {
-	for _, x := range validOnes() {
+	for _, x := range exprs.Valid() {
 		checkRight(t, x, api.OK)
 	}
 	for _, x := range wildOnes() {
@@ -155,24 +156,20 @@ func TestRightByDefinition(t *testing.T) {
 
 func TestRightAtTheLimits(t *testing.T) {
 	for n := 1; n <= 200; n++ {
-		x := sized(n)
-		if len(every(x)) != n || depth(x) > 20 {
-			t.Fatalf("sized(%d) has %d parts on %d levels", n, len(every(x)), depth(x))
-		}
-		checkRight(t, x, api.OK)
+		checkRight(t, exprs.Sized(n), api.OK)
 	}
 	for n := 201; n <= 300; n++ {
-		checkRight(t, sized(n), api.ErrMany)
+		checkRight(t, exprs.Sized(n), api.ErrMany)
 	}
 	for n := range 20 {
-		checkRight(t, nested(number(1), n), api.OK)
-		checkRight(t, nested(call(api.OpKey), n), api.OK)
+		checkRight(t, exprs.Nested(exprs.Number(1), n), api.OK)
+		checkRight(t, exprs.Nested(exprs.Call(api.OpKey), n), api.OK)
 	}
 	for _, n := range []int{20, 21, 22, 100, 198, 199} {
-		checkRight(t, nested(number(1), n), api.ErrRange)
+		checkRight(t, exprs.Nested(exprs.Number(1), n), api.ErrRange)
 	}
 	for _, n := range []int{200, 201, 1000, 1<<16 - 1} {
-		checkRight(t, nested(number(1), n), api.ErrMany)
+		checkRight(t, exprs.Nested(exprs.Number(1), n), api.ErrMany)
 	}
 }
 
@@ -180,26 +177,26 @@ func TestRightAtTheLimitOfStrings(t *testing.T) {
 	// A string has so many bytes, whatever they are and however they are told.
 	for _, pair := range []string{"aa", "\"\\", "\x00\xff", "é", "  "} {
 		for _, n := range []int{0, 2, api.MaxItem - 2, api.MaxItem} {
-			checkRight(t, str(strings.Repeat(pair, n/2)), api.OK)
-			checkRight(t, str(strings.Repeat(pair, n/2)[min(n, 1):]), api.OK)
+			checkRight(t, exprs.Str(strings.Repeat(pair, n/2)), api.OK)
+			checkRight(t, exprs.Str(strings.Repeat(pair, n/2)[min(n, 1):]), api.OK)
 		}
 		for _, n := range []int{api.MaxItem + 2, api.MaxItem + 4, 2 * api.MaxItem, 2 * api.MaxBytes} {
-			checkRight(t, str(strings.Repeat(pair, n/2)), api.ErrLong)
-			checkRight(t, str(strings.Repeat(pair, n/2)[1:]), api.ErrLong)
+			checkRight(t, exprs.Str(strings.Repeat(pair, n/2)), api.ErrLong)
+			checkRight(t, exprs.Str(strings.Repeat(pair, n/2)[1:]), api.ErrLong)
 		}
 	}
 }
 
 func TestRightLooksAtTheDeepestArgument(t *testing.T) {
-	off := call(api.OpOff)
+	off := exprs.Call(api.OpOff)
 	for _, x := range []struct {
 		levels int
 		want   api.Errno
 	}{{19, api.OK}, {20, api.ErrRange}} {
-		deep := nested(off, x.levels-1)
-		checkRight(t, call(api.OpIf, deep, off, off), x.want)
-		checkRight(t, call(api.OpIf, off, deep, off), x.want)
-		checkRight(t, call(api.OpIf, off, off, deep), x.want)
+		deep := exprs.Nested(off, x.levels-1)
+		checkRight(t, exprs.Call(api.OpIf, deep, off, off), x.want)
+		checkRight(t, exprs.Call(api.OpIf, off, deep, off), x.want)
+		checkRight(t, exprs.Call(api.OpIf, off, off, deep), x.want)
 	}
 }
 
@@ -211,27 +208,27 @@ func TestRightOfEachNumberOfArguments(t *testing.T) {
 	for _, op := range ops {
 		for n := range 6 {
 			want := api.ErrForm
-			if n == arity(op) {
+			if n == exprs.Arity(op) {
 				want = api.OK
 			}
-			x := call(op, make([]api.Expr, n)...)
+			x := exprs.Call(op, make([]api.Expr, n)...)
 			checkRight(t, x, want)
-			checkRight(t, call(api.OpCat, number(1), x), want)
+			checkRight(t, exprs.Call(api.OpCat, exprs.Number(1), x), want)
 		}
-		checkRight(t, call(op, make([]api.Expr, 199)...), api.ErrForm)
-		checkRight(t, call(op, make([]api.Expr, 200)...), api.ErrMany)
+		checkRight(t, exprs.Call(op, make([]api.Expr, 199)...), api.ErrForm)
+		checkRight(t, exprs.Call(op, make([]api.Expr, 200)...), api.ErrMany)
 	}
 }
 
 func TestRightLooksEverywhere(t *testing.T) {
-	long := str(strings.Repeat("a", api.MaxItem+1))
-	whole := call(api.OpIf, call(api.OpLt, call(api.OpOff), number(-5)), call(api.OpField, call(api.OpLine), str(" "), nested(number(1), 2)), sized(30))
-	for i := range every(whole) {
-		checkRight(t, replaced(whole, i, str("a")), api.OK)
+	long := exprs.Str(strings.Repeat("a", api.MaxItem+1))
+	whole := exprs.Call(api.OpIf, exprs.Call(api.OpLt, exprs.Call(api.OpOff), exprs.Number(-5)), exprs.Call(api.OpField, exprs.Call(api.OpLine), exprs.Str(" "), exprs.Nested(exprs.Number(1), 2)), exprs.Sized(30))
+	for i := range exprs.Every(whole) {
+		checkRight(t, replaced(whole, i, exprs.Str("a")), api.OK)
 		checkRight(t, replaced(whole, i, long), api.ErrLong)
-		checkRight(t, replaced(whole, i, sized(201)), api.ErrMany)
-		checkRight(t, replaced(whole, i, nested(number(1), 20)), api.ErrRange)
-		for _, bad := range []api.Expr{call(-1), call(28), call(api.OpNeg), call(api.OpAdd, number(1)), call(api.OpLine, number(1)), call(api.OpConst, number(1)), call(api.OpIf, long, long)} {
+		checkRight(t, replaced(whole, i, exprs.Sized(201)), api.ErrMany)
+		checkRight(t, replaced(whole, i, exprs.Nested(exprs.Number(1), 20)), api.ErrRange)
+		for _, bad := range []api.Expr{exprs.Call(-1), exprs.Call(28), exprs.Call(api.OpNeg), exprs.Call(api.OpAdd, exprs.Number(1)), exprs.Call(api.OpLine, exprs.Number(1)), exprs.Call(api.OpConst, exprs.Number(1)), exprs.Call(api.OpIf, long, long)} {
 			checkRight(t, replaced(whole, i, bad), api.ErrForm)
 		}
 	}
@@ -249,17 +246,17 @@ func rotations(l []api.Expr) [][]api.Expr {
 func TestRightNamesTheFirstError(t *testing.T) {
 	errors := []api.Errno{api.ErrMany, api.ErrRange, api.ErrForm, api.ErrLong}
 	for set := range 16 {
-		l := []api.Expr{sized(201), nested(number(1), 18), call(28), str(strings.Repeat("a", api.MaxItem+1))}
+		l := []api.Expr{exprs.Sized(201), exprs.Nested(exprs.Number(1), 18), exprs.Call(28), exprs.Str(strings.Repeat("a", api.MaxItem+1))}
 		want := api.OK
 		for i := 3; i >= 0; i-- {
 			if set>>i&1 == 1 {
 				want = errors[i]
 			} else {
-				l[i] = number(1)
+				l[i] = exprs.Number(1)
 			}
 		}
 		for _, order := range rotations(l) {
-			checkRight(t, call(api.OpAdd, call(api.OpAdd, order[0], order[1]), call(api.OpAdd, order[2], order[3])), want)
+			checkRight(t, exprs.Call(api.OpAdd, exprs.Call(api.OpAdd, order[0], order[1]), exprs.Call(api.OpAdd, order[2], order[3])), want)
 		}
 	}
 }
@@ -275,16 +272,16 @@ func TestRightTakesOnlyStringsOfConstsForLong(t *testing.T) {
 		checkRight(t, api.Expr{Val: api.Val{Kind: uint8(kind), Text: long[1:]}}, api.OK)
 	}
 	for op := 1; op < 28; op++ {
-		checkRight(t, api.Expr{Op: op, Val: api.Val{Kind: 1, Text: long}, Args: make([]api.Expr, arity(op))}, api.OK)
+		checkRight(t, api.Expr{Op: op, Val: api.Val{Kind: 1, Text: long}, Args: make([]api.Expr, exprs.Arity(op))}, api.OK)
 	}
 }
 
 func TestRightEndsEarly(t *testing.T) {
 	// So many parts that nobody could visit them all.
-	for _, leaf := range []api.Expr{number(1), call(28), str(strings.Repeat("a", api.MaxItem+1))} {
+	for _, leaf := range []api.Expr{exprs.Number(1), exprs.Call(28), exprs.Str(strings.Repeat("a", api.MaxItem+1))} {
 		x := leaf
 		for range 1000 {
-			x = call(api.OpAdd, x, x)
+			x = exprs.Call(api.OpAdd, x, x)
 		}
 		// Its text would be as long: a failed check cannot tell it.
 		if e := Right(x); e != api.ErrMany {
@@ -305,7 +302,7 @@ func checkSame(t *testing.T, x, y api.Expr, want bool) {
 
 func TestSameOfAllPairs(t *testing.T) {
 	r := rand.New(rand.NewPCG(9, 3))
-	for _, l := range [][]api.Expr{validOnes(), wildOnes()} {
+	for _, l := range [][]api.Expr{exprs.Valid(), wildOnes()} {
 		// All pairs of some of them, and each beside itself.
 		some := append(slices.Clone(l[:60]), l[len(l)-300:]...)
 		for range 300 {
@@ -329,14 +326,14 @@ func TestSameOfAllPairs(t *testing.T) {
 }
 
 func TestSameSeesEachChange(t *testing.T) {
-	whole := call(api.OpIf, call(api.OpLt, call(api.OpOff), number(-5)), call(api.OpField, call(api.OpLine), str("-5"), nested(number(1), 2)), call(28, call(api.OpConst, number(1), call(-1))))
-	others := append(few(), call(28), call(-1), call(29), number(7), str("a"), call(api.OpConst, number(1)), call(api.OpIf, number(1)))
-	for i, part := range every(whole) {
+	whole := exprs.Call(api.OpIf, exprs.Call(api.OpLt, exprs.Call(api.OpOff), exprs.Number(-5)), exprs.Call(api.OpField, exprs.Call(api.OpLine), exprs.Str("-5"), exprs.Nested(exprs.Number(1), 2)), exprs.Call(28, exprs.Call(api.OpConst, exprs.Number(1), exprs.Call(-1))))
+	others := append(exprs.Few(), exprs.Call(28), exprs.Call(-1), exprs.Call(29), exprs.Number(7), exprs.Str("a"), exprs.Call(api.OpConst, exprs.Number(1)), exprs.Call(api.OpIf, exprs.Number(1)))
+	for i, part := range exprs.Every(whole) {
 		for _, other := range others {
 			checkSame(t, whole, replaced(whole, i, other), spelled(part) == spelled(other))
 		}
 		more := part
-		more.Args = append(slices.Clone(part.Args), number(1))
+		more.Args = append(slices.Clone(part.Args), exprs.Number(1))
 		checkSame(t, whole, replaced(whole, i, more), false)
 		if n := len(part.Args); n > 0 {
 			fewer := part
@@ -358,7 +355,7 @@ func TestSameLooksAtWhatIsMeantAlone(t *testing.T) {
 			for _, a := range memtest.Disguised(v) {
 				for _, b := range memtest.Disguised(w) {
 					x, y := api.Expr{Val: a}, api.Expr{Val: b}
-					if Same(x, y) != (i == j) || Same(call(api.OpNeg, x), call(api.OpNeg, y)) != (i == j) {
+					if Same(x, y) != (i == j) || Same(exprs.Call(api.OpNeg, x), exprs.Call(api.OpNeg, y)) != (i == j) {
 						t.Errorf("consts with the values %v and %v", a, b)
 					}
 				}
@@ -366,17 +363,17 @@ func TestSameLooksAtWhatIsMeantAlone(t *testing.T) {
 			// Nothing but a const has a value.
 			for _, op := range append([]int{1, 2, 7, 8, 13, 19, 27}, noOps...) {
 				checkSame(t, api.Expr{Op: op, Val: v}, api.Expr{Op: op, Val: w}, true)
-				checkSame(t, api.Expr{Op: op, Val: v, Args: few()}, api.Expr{Op: op, Val: w, Args: few()}, true)
+				checkSame(t, api.Expr{Op: op, Val: v, Args: exprs.Few()}, api.Expr{Op: op, Val: w, Args: exprs.Few()}, true)
 			}
 		}
 	}
-	for _, x := range []api.Expr{number(1), str("a"), call(api.OpOff), call(28)} {
+	for _, x := range []api.Expr{exprs.Number(1), exprs.Str("a"), exprs.Call(api.OpOff), exprs.Call(28)} {
 		empty, spare := x, x
 		empty.Args = []api.Expr{}
-		spare.Args = few()[:0]
+		spare.Args = exprs.Few()[:0]
 		checkSame(t, x, empty, true)
 		checkSame(t, x, spare, true)
-		checkSame(t, call(api.OpNeg, spare), call(api.OpNeg, empty), true)
+		checkSame(t, exprs.Call(api.OpNeg, spare), exprs.Call(api.OpNeg, empty), true)
 	}
 }
 
@@ -387,8 +384,8 @@ func TestSameOfTheNumbersOfOperations(t *testing.T) {
 	}
 	for i, op := range ops {
 		for j, other := range ops {
-			checkSame(t, call(op), call(other), i == j)
-			checkSame(t, call(op, number(1)), call(other, number(1)), i == j)
+			checkSame(t, exprs.Call(op), exprs.Call(other), i == j)
+			checkSame(t, exprs.Call(op, exprs.Number(1)), exprs.Call(other, exprs.Number(1)), i == j)
 		}
 	}
 }
@@ -403,62 +400,62 @@ func checkText(t *testing.T, x api.Expr, want string) {
 }
 
 func TestTextKnown(t *testing.T) {
-	off := call(api.OpOff)
-	checkText(t, call(api.OpAdd, off, number(5)), "(add off 5)")
+	off := exprs.Call(api.OpOff)
+	checkText(t, exprs.Call(api.OpAdd, off, exprs.Number(5)), "(add off 5)")
 	checkText(t, api.Expr{}, "0")
-	checkText(t, number(math.MinInt), "-9223372036854775808")
-	checkText(t, str(""), `""`)
-	checkText(t, str("-5"), `"-5"`)
-	checkText(t, call(api.OpNot, call(api.OpNot, off)), "(not (not off))")
-	checkText(t, call(api.OpIf, call(api.OpLt, off, number(-5)), call(api.OpLine), str("a\"\\\n\xff")), `(if (lt off -5) line "a\"\\\x0a\xff")`)
-	checkText(t, call(api.OpField, call(api.OpCat, call(api.OpWord), call(api.OpKey)), str(" "), call(api.OpCount)), `(field (cat word key) " " count)`)
-	for op, want := range names[1:] {
-		checkText(t, call(op+1), want)
+	checkText(t, exprs.Number(math.MinInt), "-9223372036854775808")
+	checkText(t, exprs.Str(""), `""`)
+	checkText(t, exprs.Str("-5"), `"-5"`)
+	checkText(t, exprs.Call(api.OpNot, exprs.Call(api.OpNot, off)), "(not (not off))")
+	checkText(t, exprs.Call(api.OpIf, exprs.Call(api.OpLt, off, exprs.Number(-5)), exprs.Call(api.OpLine), exprs.Str("a\"\\\n\xff")), `(if (lt off -5) line "a\"\\\x0a\xff")`)
+	checkText(t, exprs.Call(api.OpField, exprs.Call(api.OpCat, exprs.Call(api.OpWord), exprs.Call(api.OpKey)), exprs.Str(" "), exprs.Call(api.OpCount)), `(field (cat word key) " " count)`)
+	for op, want := range exprs.Names()[1:] {
+		checkText(t, exprs.Call(op+1), want)
 		checkText(t, api.Expr{Op: op + 1, Val: api.Val{Kind: 1, Text: "v"}}, want)
-		checkText(t, call(op+1, number(1)), "("+want+" 1)")
+		checkText(t, exprs.Call(op+1, exprs.Number(1)), "("+want+" 1)")
 	}
 }
 
 func TestTextOfWrongExpressions(t *testing.T) {
-	off := call(api.OpOff)
+	off := exprs.Call(api.OpOff)
 	// A const is told by its value, whatever its arguments.
-	checkText(t, call(api.OpConst, off), "0")
+	checkText(t, exprs.Call(api.OpConst, off), "0")
 	checkText(t, api.Expr{Val: api.Val{Kind: 1, Text: "a"}, Args: []api.Expr{off, off}}, `"a"`)
-	checkText(t, call(api.OpNeg, call(api.OpConst, off, off)), "(neg 0)")
-	checkText(t, call(api.OpAdd), "add")
+	checkText(t, exprs.Call(api.OpNeg, exprs.Call(api.OpConst, off, off)), "(neg 0)")
+	checkText(t, exprs.Call(api.OpAdd), "add")
 	checkText(t, api.Expr{Op: api.OpAdd, Args: []api.Expr{}}, "add")
-	checkText(t, call(api.OpLine, off), "(line off)")
-	checkText(t, call(api.OpNeg, off, off, off, off), "(neg off off off off)")
+	checkText(t, exprs.Call(api.OpLine, off), "(line off)")
+	checkText(t, exprs.Call(api.OpNeg, off, off, off, off), "(neg off off off off)")
 	for _, op := range noOps {
-		checkText(t, call(op), "")
+		checkText(t, exprs.Call(op), "")
 		checkText(t, api.Expr{Op: op, Val: api.Val{Kind: 1, Text: "a"}}, "")
-		checkText(t, call(op, off, number(5)), "( off 5)")
-		checkText(t, call(api.OpAdd, call(op), call(op)), "(add  )")
+		checkText(t, exprs.Call(op, off, exprs.Number(5)), "( off 5)")
+		checkText(t, exprs.Call(api.OpAdd, exprs.Call(op), exprs.Call(op)), "(add  )")
 	}
 }
 
 func TestTextByDefinition(t *testing.T) {
-	for _, x := range append(validOnes(), wildOnes()...) {
+	for _, x := range append(exprs.Valid(), wildOnes()...) {
 		checkText(t, x, text(x))
 	}
 }
 
 func TestTextLooksAtWhatIsMeantAlone(t *testing.T) {
-	for _, x := range consts() {
+	for _, x := range exprs.Consts() {
 		for _, v := range memtest.Disguised(x.Val) {
 			checkText(t, api.Expr{Val: v}, text(x))
-			checkText(t, call(api.OpNeg, api.Expr{Val: v}), "(neg "+text(x)+")")
+			checkText(t, exprs.Call(api.OpNeg, api.Expr{Val: v}), "(neg "+text(x)+")")
 		}
 	}
 }
 
 func TestTextHasNoLimit(t *testing.T) {
 	for _, n := range []int{20, 21, 200, 201, 1<<16 - 1} {
-		checkText(t, nested(call(api.OpOff), n), strings.Repeat("(neg ", n)+"off"+strings.Repeat(")", n))
-		checkText(t, call(api.OpAdd, make([]api.Expr, n)...), "(add"+strings.Repeat(" 0", n)+")")
+		checkText(t, exprs.Nested(exprs.Call(api.OpOff), n), strings.Repeat("(neg ", n)+"off"+strings.Repeat(")", n))
+		checkText(t, exprs.Call(api.OpAdd, make([]api.Expr, n)...), "(add"+strings.Repeat(" 0", n)+")")
 	}
 	for _, n := range []int{api.MaxItem, api.MaxItem + 1, 2 * api.MaxBytes} {
-		checkText(t, str(strings.Repeat("\x01", n)), `"`+strings.Repeat(`\x01`, n)+`"`)
+		checkText(t, exprs.Str(strings.Repeat("\x01", n)), `"`+strings.Repeat(`\x01`, n)+`"`)
 	}
 }
 
@@ -529,7 +526,7 @@ func TestQuoteOfManyStrings(t *testing.T) {
 
 func TestTextTellsValidExpressionsApart(t *testing.T) {
 	texts, spellings := map[string]string{}, map[string]string{}
-	for _, x := range validOnes() {
+	for _, x := range exprs.Valid() {
 		s, told := Text(x), spelled(x)
 		if was, ok := texts[s]; ok && was != told {
 			t.Errorf("%.80q is the text of %.80q and of %.80q", s, was, told)
@@ -545,7 +542,7 @@ func TestTextTellsValidExpressionsApart(t *testing.T) {
 }
 
 func TestSameMeansTheSameText(t *testing.T) {
-	all := validOnes()
+	all := exprs.Valid()
 	r := rand.New(rand.NewPCG(9, 4))
 	for range 200000 {
 		x, y := all[r.IntN(len(all))], all[r.IntN(len(all))]
@@ -563,7 +560,7 @@ func roomy(x api.Expr) api.Expr {
 	for _, arg := range x.Args {
 		args = append(args, roomy(arg))
 	}
-	x.Args = memtest.Roomy(args, number(1234))
+	x.Args = memtest.Roomy(args, exprs.Number(1234))
 	return x
 }
 
@@ -578,7 +575,7 @@ func whole(x api.Expr) api.Expr {
 }
 
 func TestArgumentsAreKept(t *testing.T) {
-	tried := []api.Expr{number(5), str("a\"\n"), sized(20), sized(201), nested(number(1), 21), call(28, number(1), str("a")), call(api.OpConst, number(1)), call(api.OpCat, str("b"), str(strings.Repeat("a", api.MaxItem+1)))}
+	tried := []api.Expr{exprs.Number(5), exprs.Str("a\"\n"), exprs.Sized(20), exprs.Sized(201), exprs.Nested(exprs.Number(1), 21), exprs.Call(28, exprs.Number(1), exprs.Str("a")), exprs.Call(api.OpConst, exprs.Number(1)), exprs.Call(api.OpCat, exprs.Str("b"), exprs.Str(strings.Repeat("a", api.MaxItem+1)))}
 	for _, plain := range tried {
 		x, y := roomy(plain), roomy(plain)
 		was := whole(x)
@@ -606,9 +603,12 @@ func FuzzByDefinition(f *testing.F) {
 		f.Add(seed, uint8(seed), seed%2 == 0)
 	}
 	f.Fuzz(func(t *testing.T, seed uint64, levels uint8, valid bool) {
-		r := rand.New(rand.NewPCG(seed, 0))
-		x, y := grown(r, int(levels%7), valid), grown(r, int(levels%3), valid)
-		checkSize(t, x, len(every(x)), depth(x))
+		r, leaves := rand.New(rand.NewPCG(seed, 0)), exprs.Leaves()
+		x, y := grown(r, leaves, int(levels%7)), grown(r, leaves, int(levels%3))
+		if valid {
+			x, y = exprs.Grown(r.IntN, leaves, int(levels%7)), exprs.Grown(r.IntN, leaves, int(levels%3))
+		}
+		checkSize(t, x, len(exprs.Every(x)), depth(x))
 		checkRight(t, x, right(x))
 		checkText(t, x, text(x))
 		checkSame(t, x, x, true)
